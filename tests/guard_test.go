@@ -29,6 +29,31 @@ func (g guarded) check(t *testing.T, name string) {
 	}
 }
 
+// guardedLists are guarded lists in a list that has one more of them in its unused capacity.
+type guardedLists struct {
+	lists    [][]int
+	elements []guarded
+}
+
+func guardLists(lists [][]int) guardedLists {
+	g := guardedLists{}
+	for _, list := range append(slices.Clone(lists), []int{spareNumber}) {
+		element := guard(list)
+		g.elements = append(g.elements, element)
+		g.lists = append(g.lists, element.list)
+	}
+	g.lists = g.lists[:len(lists)]
+	return g
+}
+
+func (g guardedLists) check(t *testing.T, name string) {
+	t.Helper()
+	for i, list := range g.lists[:len(g.elements)] {
+		g.elements[i].check(t, name)
+		checkList(t, list, g.elements[i].list, "an element of the argument of "+name, i)
+	}
+}
+
 // checkList compares lists; nil and empty ones are the same.
 func checkList(t *testing.T, got []int, want []int, name string, args ...any) {
 	t.Helper()
